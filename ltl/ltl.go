@@ -8,26 +8,25 @@ import (
 	"vigil/nodes"
 )
 
-// kind tells of an Op how it is written, what it turns to behind a Not, and
-// whether it is one of those that Parts tells.
+// kind tells of an Op how it is written, and whether that is ahead of a Kid,
+// between two, or without any.
 type kind struct {
-	sign   string
-	turned int
-	part   bool
+	sign string
+	kids int
 }
 
 var kinds = [...]kind{
-	api.True:     {sign: "true", turned: api.False},
-	api.False:    {sign: "false", turned: api.True},
-	api.Not:      {sign: "!"},
-	api.And:      {sign: "&", turned: api.Or},
-	api.Or:       {sign: "|", turned: api.And},
-	api.Implies:  {sign: "->"},
-	api.Next:     {sign: "X", turned: api.Next, part: true},
-	api.Until:    {sign: "U", turned: api.Release, part: true},
-	api.Release:  {sign: "R", turned: api.Until, part: true},
-	api.Finally:  {sign: "F"},
-	api.Globally: {sign: "G"},
+	api.True:     {sign: "true"},
+	api.False:    {sign: "false"},
+	api.Not:      {sign: "!", kids: 1},
+	api.And:      {sign: "&", kids: 2},
+	api.Or:       {sign: "|", kids: 2},
+	api.Implies:  {sign: "->", kids: 2},
+	api.Next:     {sign: "X", kids: 1},
+	api.Until:    {sign: "U", kids: 2},
+	api.Release:  {sign: "R", kids: 2},
+	api.Finally:  {sign: "F", kids: 1},
+	api.Globally: {sign: "G", kids: 1},
 }
 
 // Parse reads a formula (A2).
@@ -69,18 +68,18 @@ func write(l *nodes.List, root int) string {
 			continue
 		}
 		n := l.At(p.id)
-		sign := kinds[n.Op].sign
-		switch kids := n.Kids(); {
-		case len(kids) == 2:
-			text.WriteByte('(')
-			todo = append(todo, piece{sign: ")"}, piece{id: kids[1]}, piece{sign: sign}, piece{id: kids[0]})
-		case len(kids) == 1:
-			text.WriteString(sign)
-			todo = append(todo, piece{id: kids[0]})
+		k := kinds[n.Op]
+		switch {
 		case n.Op == api.Prop:
 			text.WriteByte('a' + byte(n.N))
+		case k.kids == 2:
+			text.WriteByte('(')
+			todo = append(todo, piece{sign: ")"}, piece{id: n.Right}, piece{sign: k.sign}, piece{id: n.Left})
+		case k.kids == 1:
+			text.WriteString(k.sign)
+			todo = append(todo, piece{id: n.Left})
 		default:
-			text.WriteString(sign)
+			text.WriteString(k.sign)
 		}
 	}
 	return text.String()
@@ -88,7 +87,7 @@ func write(l *nodes.List, root int) string {
 
 // Plain says the same with less (A4).
 func Plain(f api.Form) api.Form {
-	l, root, ok := plain(f)
+	l, root, ok := nodes.Plain(f)
 	if !ok || l.Sizes()[root] > nodes.Most {
 		return api.Form{Op: api.False}
 	}
@@ -97,21 +96,21 @@ func Plain(f api.Form) api.Form {
 
 // Parts tells what of a formula speaks of later (A4).
 func Parts(f api.Form) []api.Form {
-	l, root, ok := plain(f)
+	l, root, ok := nodes.Plain(f)
 	if !ok {
 		return nil
 	}
-	var total int64
-	var parts []api.Form
+	ids := l.Later(root)
 	sizes := l.Sizes()
-	for _, id := range l.Within(root) {
-		if !kinds[l.At(id).Op].part {
-			continue
-		}
+	var total int64
+	for _, id := range ids {
 		total += sizes[id]
-		if total > nodes.Most {
-			return nil
-		}
+	}
+	if total > nodes.Most {
+		return nil
+	}
+	var parts []api.Form
+	for _, id := range ids {
 		parts = append(parts, l.Form(id))
 	}
 	return parts
