@@ -2,10 +2,7 @@
 package auto
 
 import (
-	"iter"
-
 	"vigil/api"
-	"vigil/graph"
 	"vigil/nodes"
 	"vigil/runs"
 	"vigil/word"
@@ -21,8 +18,7 @@ func Accepts(a api.Auto, w api.Word) bool {
 	}
 	w = word.Least(w) // its letters are the same, and there may be fewer places
 	m := runs.Of(a)
-	g := along(m, m.Behind(w.Head), w.Loop)
-	return runs.NewJudge(m, g, func(at spot) int { return at.state }).Some()
+	return m.JudgeBeside(ring(w.Loop), m.Behind(w.Head)).Some()
 }
 
 // Empty tells whether there is none on any word (D2).
@@ -41,33 +37,11 @@ func Of(f api.Form) (api.Auto, api.Errno) {
 	return runs.Of(newTableau(l, root, parts).automaton()).Auto, api.OK
 }
 
-// spot is a State that reads a place of a Loop.
-type spot struct{ state, place int }
-
-// along leads from spot to spot, round and round a Loop, whose first place is
-// read by one of the States first.
-func along(m *runs.Machine, first, loop []int) graph.Graph[spot] {
-	at := func(list []int, place, from int) iter.Seq2[int, spot] {
-		return func(yield func(int, spot) bool) {
-			for i, s := range m.Reading(list, loop[place], from) {
-				if !yield(i, spot{s, place}) {
-					return
-				}
-			}
-		}
+// ring is a model that goes round and round a Loop. (It needs no names.)
+func ring(loop []int) api.Model {
+	m := api.Model{Letters: loop}
+	for place := range loop {
+		m.To = append(m.To, []int{(place + 1) % len(loop)})
 	}
-	return graph.Graph[spot]{
-		First: func(yield func(spot) bool) {
-			for _, s := range at(first, 0, 0) {
-				if !yield(s) {
-					return
-				}
-			}
-		},
-		Next: func(n spot, from int) iter.Seq2[int, spot] {
-			return at(m.States[n.state].To, (n.place+1)%len(loop), from)
-		},
-		Number: func(n spot) int { return n.place*len(m.States) + n.state },
-		Size:   len(loop) * len(m.States),
-	}
+	return m
 }

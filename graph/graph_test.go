@@ -175,3 +175,74 @@ func TestTooManyNumbersForAList(t *testing.T) {
 		}
 	}
 }
+
+// distances are how many nodes the shortest ways from first to each have; 0 where
+// there is none.
+func distances(first []int, to [][]int) []int {
+	far := make([]int, len(to))
+	for n := range far {
+		if slices.Contains(first, n) {
+			far[n] = 1
+		}
+	}
+	for range to {
+		for n := range to {
+			for _, m := range to[n] {
+				if far[n] > 0 && (far[m] == 0 || far[m] > far[n]+1) {
+					far[m] = far[n] + 1
+				}
+			}
+		}
+	}
+	return far
+}
+
+func TestNearest(t *testing.T) {
+	r := rand.New(rand.NewSource(2))
+	for range 3000 {
+		to := anyLists(r, 1+r.Intn(9))
+		first := []int{r.Intn(len(to)), r.Intn(len(to))}[:r.Intn(3)]
+		wanted := []int{r.Intn(len(to)), r.Intn(len(to))}[:r.Intn(3)]
+		g := listGraph(first, to, true)
+		shortest := 0
+		for _, n := range wanted {
+			if far := distances(first, to)[n]; far > 0 && (shortest == 0 || far < shortest) {
+				shortest = far
+			}
+		}
+		back := []*Step[int]{nil, {Node: -1, Back: &Step[int]{Node: -2}}}[r.Intn(2)]
+		s := Nearest(back, g.First, g.Behind, func(n int) bool { return slices.Contains(wanted, n) })
+		if shortest == 0 {
+			if s != nil {
+				t.Fatalf("%v from %v to %v: %v", to, first, wanted, s.Way())
+			}
+			continue
+		}
+		way, ahead := s.Way(), back.Way()
+		if !slices.Equal(way[:len(ahead)], ahead) {
+			t.Fatalf("%v is not behind %v", way, ahead)
+		}
+		way = way[len(ahead):]
+		if len(way) != shortest || !slices.Contains(first, way[0]) || !slices.Contains(wanted, s.Node) {
+			t.Fatalf("%v from %v to %v: %v", to, first, wanted, way)
+		}
+		for i := range way[1:] {
+			if !slices.Contains(to[way[i]], way[i+1]) {
+				t.Fatalf("%v from %v to %v: %v", to, first, wanted, way)
+			}
+		}
+	}
+}
+
+// TestNearestLooksNoFurther: than it must.
+func TestNearestLooksNoFurther(t *testing.T) {
+	g := listGraph([]int{0, 1}, [][]int{{2}, {3}, {3}, {0}}, true)
+	var asked []int
+	s := Nearest(nil, g.First, func(n int) iter.Seq[int] {
+		asked = append(asked, n)
+		return g.Behind(n)
+	}, func(n int) bool { return n == 3 })
+	if !slices.Equal(s.Way(), []int{1, 3}) || !slices.Equal(asked, []int{0, 1, 2}) {
+		t.Errorf("%v by %v", s.Way(), asked)
+	}
+}

@@ -67,7 +67,7 @@ func (m *Machine) Behind(letters []int) []int {
 
 // live tells of each State whether an accepted run can come to it.
 func (m *Machine) live() []bool {
-	j := NewJudge(m, m.steps(), func(s int) int { return s })
+	j := m.judge()
 	live := make([]bool, len(m.States))
 	leads := func(s int) bool {
 		return slices.ContainsFunc(m.States[s].To, func(t int) bool { return live[t] })
@@ -80,6 +80,11 @@ func (m *Machine) live() []bool {
 		}
 	}
 	return live
+}
+
+// judge judges runs on whatever letters.
+func (m *Machine) judge() *Judge[int] {
+	return NewJudge(m, m.steps(), func(s int) int { return s })
 }
 
 // steps leads from State to State, whatever they read.
