@@ -6,6 +6,7 @@ import (
 	"strings"
 
 	"vigil/api"
+	"vigil/letter"
 )
 
 // Where the words of a state's line stand.
@@ -44,7 +45,7 @@ func (d *draft) read(line string, number int) api.Errno {
 	if errno != api.OK {
 		return errno
 	}
-	set, _ := setOf(words[lettersAt])
+	set, _ := letter.Set(words[lettersAt])
 	d.Names = append(d.Names, strings.Clone(name))
 	d.Letters = append(d.Letters, set)
 	d.lines = append(d.lines, number)
@@ -65,7 +66,7 @@ func formed(words []string) bool {
 	if len(words) <= behindAt || words[signAt] != sign || !isName(words[nameAt]) {
 		return false
 	}
-	_, ok := setOf(words[lettersAt])
+	_, ok := letter.Set(words[lettersAt])
 	return ok && every(words[behindAt:], isName)
 }
 

@@ -6,6 +6,7 @@ import (
 	"strings"
 
 	"vigil/api"
+	"vigil/letter"
 )
 
 // sound tells whether a model is what lines can tell, however long they are.
@@ -36,7 +37,7 @@ func distinct[T cmp.Ordered](list []T) bool {
 func text(m api.Model) string {
 	var b strings.Builder
 	for s, name := range m.Names {
-		b.WriteString(name + " " + setText(m.Letters[s]) + " " + sign)
+		b.WriteString(name + " " + letter.Text(m.Letters[s]) + " " + sign)
 		for _, t := range m.To[s] {
 			b.WriteString(" " + m.Names[t])
 		}
