@@ -42,10 +42,6 @@ func TestExamples(t *testing.T) { // L1, L2
 		{"apart F F a;F a", "same"},
 		{"check G F b", "(red)"},
 	})
-	p := wordOf(s.Line("check G F b"), s.state)
-	if !model.Path(s.model, p) || word.Holds(parsed(t, "G F b"), model.Trace(s.model, p)) {
-		t.Errorf("check: %v", p)
-	}
 	for line, f := range map[string]string{"sat a & X !a": "a & X !a", "apart F a;G a": "!(F a -> G a)"} {
 		if w := s.Line(line); s.Line("word "+w+";"+f) != "yes" {
 			t.Errorf("%s: %q", line, w)
@@ -381,30 +377,39 @@ func TestTrace(t *testing.T) { // L1, L2
 	}
 }
 
-func TestRoundTrip(t *testing.T) { // L1
+// TestAnyPath: each state has letters of its own, so a trace tells its path.
+func TestAnyPath(t *testing.T) { // L1
 	r := rand.New(rand.NewSource(3))
+	letters := []string{"-", "a", "b", "ab", "c", "ac", "bc", "abc", "d", "ad", "bd", "h"}
+	var lines, all []string
+	for n := range letters {
+		all = append(all, string(rune('n'+n)))
+	}
+	for n, set := range letters {
+		lines = append(lines, all[n]+" "+set+" > "+strings.Join(all, " "))
+	}
 	s := New()
-	s.Line("model " + states(12))
+	talk(t, s, [][2]string{{"model " + strings.Join(lines, ";"), "12"}})
+	text := func(head, loop []int, names []string) string {
+		var b strings.Builder
+		for _, n := range head {
+			b.WriteString(names[n] + ",")
+		}
+		b.WriteString("(" + names[loop[0]])
+		for _, n := range loop[1:] {
+			b.WriteString("," + names[n])
+		}
+		return b.String() + ")"
+	}
 	for range 3000 {
-		var w api.Word
-		for range r.Intn(4) {
-			w.Head = append(w.Head, r.Intn(12))
+		var numbers []int
+		for range 1 + r.Intn(7) {
+			numbers = append(numbers, r.Intn(12))
 		}
-		for range 1 + r.Intn(4) {
-			w.Loop = append(w.Loop, r.Intn(12))
-		}
-		text := textOf(w, s.name)
-		var names []string
-		for _, n := range slices.Concat(w.Head, w.Loop) {
-			names = append(names, "s"+strconv.Itoa(n))
-		}
-		names[len(w.Head)] = "(" + names[len(w.Head)]
-		if want := strings.Join(names, ",") + ")"; text != want {
-			t.Fatalf("%v is written %q, want %q", w, text, want)
-		}
-		if again := wordOf(text, s.state); !reflect.DeepEqual(again, w) {
-			t.Fatalf("%q is read %v", text, again)
-		}
+		numbers[0] = 0
+		cut := r.Intn(len(numbers))
+		head, loop := numbers[:cut], numbers[cut:]
+		talk(t, s, [][2]string{{"trace " + text(head, loop, all), text(head, loop, letters)}})
 	}
 }
 
@@ -412,8 +417,8 @@ func TestRoundTrip(t *testing.T) { // L1
 func TestAnyBytes(t *testing.T) { // G1, G2, L2
 	r := rand.New(rand.NewSource(4))
 	lines := []string{light, "check G F a", "prove G(a -> F b)", "sat a U b", "apart F a;G a", "trace red,(green,red)", "word a,(b,-);a U b", "show a R b", "model s - > s"}
-	s := New()
-	for range 100000 {
+	s, last := New(), "show a"
+	for range 50000 {
 		line := []byte(lines[r.Intn(len(lines))])
 		for range r.Intn(4) {
 			i := r.Intn(len(line))
@@ -429,10 +434,17 @@ func TestAnyBytes(t *testing.T) { // G1, G2, L2
 				break
 			}
 		}
-		before := s.model
 		answer := s.Line(string(line))
-		if answer == "" || strings.HasPrefix(answer, "ERR") && !reflect.DeepEqual(before, s.model) {
-			t.Fatalf("%q: %q, and the model is %v", line, answer, s.model)
+		if answer == "" {
+			t.Fatalf("%q is not answered", line)
+		}
+		if strings.HasPrefix(string(line), "model ") && !strings.HasPrefix(answer, "ERR") {
+			last = string(line)
+		}
+		again := New()
+		again.Line(last)
+		if got, want := s.Line("check XXb"), again.Line("check XXb"); got != want {
+			t.Fatalf("%q: %q, and then the model is not that of %q", line, answer, last)
 		}
 		if fields := strings.Split(answer, " "); fields[0] == "ERR" && (len(fields) < 2 || len(fields) > 3) {
 			t.Fatalf("%q: %q", line, answer)
